@@ -166,6 +166,8 @@ func (c Committee) weightOf(s memberSet) int {
 	return sum
 }
 
+func (c Committee) total() int { return c.weightOf(c.everybody()) }
+
 func (c Committee) wins(s memberSet) bool { return c.weightOf(s) >= c.Quota }
 
 func (c Committee) loses(s memberSet) bool { return !c.wins(s) }
@@ -183,18 +185,36 @@ func (c Committee) membersThat(isKind func(memberSet) bool) []int {
 	return found.list()
 }
 
+func (c Committee) leastWinning() []memberSet { return leastSets(c.members(), c.wins) }
+
+func (c Committee) dummies() memberSet {
+	dummies := c.everybody()
+	for _, s := range c.leastWinning() {
+		dummies &^= s
+	}
+	return dummies
+}
+
 // rules reports whether the members of s win, and all others lose.
 func (c Committee) rules(s memberSet) bool { return c.wins(s) && c.blocks(s) }
 
-// IsCommittee reports whether c, whose numbers may be any, is a committee.
-func IsCommittee(c Committee) bool {
-	if len(c.Weights) < 1 || len(c.Weights) > MaxMembers {
+// areNumbersOfMembers reports whether a list has a number for each of so many members as a committee may have, all of them from least to most.
+func areNumbersOfMembers(list []int, least int, most int) bool {
+	if len(list) < 1 || len(list) > MaxMembers {
 		return false
 	}
-	for _, weight := range c.Weights {
-		if weight < 0 || weight > MaxWeight {
+	for _, n := range list {
+		if n < least || n > most {
 			return false
 		}
+	}
+	return true
+}
+
+// IsCommittee reports whether c, whose numbers may be any, is a committee.
+func IsCommittee(c Committee) bool {
+	if !areNumbersOfMembers(c.Weights, 0, MaxWeight) {
+		return false
 	}
 	// A Quota of at least 1 that all weights reach leaves no room for weights that are all 0.
 	return c.Quota >= 1 && c.wins(c.everybody())
@@ -205,7 +225,7 @@ func TotalWeight(c Committee) (int, bool) {
 	if !IsCommittee(c) {
 		return 0, false
 	}
-	return c.weightOf(c.everybody()), true
+	return c.total(), true
 }
 
 // committeeSet returns a set of members of a committee, and fails if one of both is none.
@@ -259,7 +279,7 @@ func LeastWinning(c Committee) ([][]int, bool) {
 	if !IsCommittee(c) {
 		return nil, false
 	}
-	return listsOf(leastSets(c.members(), c.wins)), true
+	return listsOf(c.leastWinning()), true
 }
 
 // GreatestLosing returns all greatest losing sets, in order.
@@ -303,11 +323,7 @@ func DummiesOf(c Committee) ([]int, bool) {
 	if !IsCommittee(c) {
 		return nil, false
 	}
-	dummies := c.everybody()
-	for _, s := range leastSets(c.members(), c.wins) {
-		dummies &^= s
-	}
-	return dummies.list(), true
+	return c.dummies().list(), true
 }
 
 // withQuota shares no memory with c, as a result must not.
@@ -322,7 +338,7 @@ func DualCommittee(c Committee) (Committee, bool) {
 	if !IsCommittee(c) {
 		return Committee{}, false
 	}
-	return c.withQuota(c.weightOf(c.everybody()) - c.Quota + 1), true
+	return c.withQuota(c.total() - c.Quota + 1), true
 }
 
 // IsProper reports whether no two sets without a common member both win.
