@@ -144,6 +144,27 @@ func isKindWithOneMore(members int, s memberSet, isKind func(memberSet) bool) bo
 	return false
 }
 
+// isProperRule reports whether no two sets without a common member both win. If a set without a member of s wins, all others together win, too: just these are asked.
+func isProperRule(members int, wins func(memberSet) bool) bool {
+	losesOrBlocks := func(s memberSet) bool { return !wins(s) || !wins(allMembers(members)&^s) }
+	return areAllSets(members, losesOrBlocks)
+}
+
+// isStrongRule reports whether of each set and all other members at least one wins.
+func isStrongRule(members int, wins func(memberSet) bool) bool {
+	winsOrOthersDo := func(s memberSet) bool { return wins(s) || wins(allMembers(members)&^s) }
+	return areAllSets(members, winsOrOthersDo)
+}
+
+// membersOfNone returns the members that are in none of the sets.
+func membersOfNone(members int, sets []memberSet) memberSet {
+	left := allMembers(members)
+	for _, s := range sets {
+		left &^= s
+	}
+	return left
+}
+
 func listsOf(sets []memberSet) [][]int {
 	lists := make([][]int, 0, len(sets))
 	for _, s := range sets {
@@ -188,11 +209,7 @@ func (c Committee) membersThat(isKind func(memberSet) bool) []int {
 func (c Committee) leastWinning() []memberSet { return leastSets(c.members(), c.wins) }
 
 func (c Committee) dummies() memberSet {
-	dummies := c.everybody()
-	for _, s := range c.leastWinning() {
-		dummies &^= s
-	}
-	return dummies
+	return membersOfNone(c.members(), c.leastWinning())
 }
 
 // rules reports whether the members of s win, and all others lose.
@@ -346,9 +363,7 @@ func IsProper(c Committee) (bool, bool) {
 	if !IsCommittee(c) {
 		return false, false
 	}
-	// If a set without a member of s wins, all others together win, too: just these are asked.
-	losesOrBlocks := func(s memberSet) bool { return c.loses(s) || c.blocks(s) }
-	return areAllSets(c.members(), losesOrBlocks), true
+	return isProperRule(c.members(), c.wins), true
 }
 
 // IsStrong reports whether of each set and all other members at least one wins.
@@ -356,8 +371,7 @@ func IsStrong(c Committee) (bool, bool) {
 	if !IsCommittee(c) {
 		return false, false
 	}
-	winsOrOthersDo := func(s memberSet) bool { return c.wins(s) || !c.blocks(s) }
-	return areAllSets(c.members(), winsOrOthersDo), true
+	return isStrongRule(c.members(), c.wins), true
 }
 
 // RenameCommittee returns the committee whose member i is the member order[i] of c; order is a list of all members, each once.

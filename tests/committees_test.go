@@ -148,7 +148,7 @@ func manyCommittees() []impl.Committee {
 	return slices.Concat(validCommittees(), smallCommittees(), mixedCommittees())
 }
 
-// votes has all sets of a committee in order, and which of them win: found from the document's words, without the program.
+// votes has all sets of some members in order, and which of them win: found from the document's words, without the program.
 type votes struct {
 	members int
 	sets    [][]int
@@ -156,11 +156,11 @@ type votes struct {
 	at      [1 << impl.MaxMembers]int
 }
 
-func votesOf(c impl.Committee) *votes {
-	v := &votes{members: len(c.Weights)}
-	for mask := range 1 << v.members {
+func newVotes(members int, isWon func(set []int) bool) *votes {
+	v := &votes{members: members}
+	for mask := range 1 << members {
 		var set []int
-		for k := range v.members {
+		for k := range members {
 			if mask>>k&1 == 1 {
 				set = append(set, k)
 			}
@@ -169,15 +169,24 @@ func votesOf(c impl.Committee) *votes {
 	}
 	slices.SortFunc(v.sets, slices.Compare[[]int])
 	for i, set := range v.sets {
-		sum, mask := 0, 0
+		mask := 0
 		for _, k := range set {
-			sum += c.Weights[k]
 			mask += 1 << k
 		}
-		v.wins = append(v.wins, sum >= c.Quota)
+		v.wins = append(v.wins, isWon(set))
 		v.at[mask] = i
 	}
 	return v
+}
+
+func votesOf(c impl.Committee) *votes {
+	return newVotes(len(c.Weights), func(set []int) bool {
+		sum := 0
+		for _, k := range set {
+			sum += c.Weights[k]
+		}
+		return sum >= c.Quota
+	})
 }
 
 func (v *votes) isWon(set []int) bool {

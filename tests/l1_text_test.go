@@ -104,37 +104,12 @@ func checkParse(t *testing.T, s string) {
 
 // TestShortTexts parses all texts of up to six signs of a few.
 func TestShortTexts(t *testing.T) {
-	texts := []string{""}
-	for range 6 {
-		var longer []string
-		for _, s := range texts {
-			checkParse(t, s)
-			for _, sign := range []string{"0", "1", "2", ":", ","} {
-				longer = append(longer, s+sign)
-			}
-		}
-		texts = longer
-	}
-	for _, s := range texts {
-		checkParse(t, s)
-	}
+	eachText([]string{"0", "1", "2", ":", ","}, 6, func(s string) { checkParse(t, s) })
 }
 
-// TestChangedTexts puts each byte at each place of some texts, in it and instead of what is there, and takes each byte out.
 func TestChangedTexts(t *testing.T) {
 	for _, s := range []string{"5:3,2,2,1", "10:0,1000,7", "9000:1000,1000,1000,1000,1000,1000,1000,1000,1000"} {
-		for i := range len(s) + 1 {
-			for b := range 256 {
-				checkParse(t, s[:i]+string([]byte{byte(b)})+s[i:])
-				if i < len(s) {
-					checkParse(t, s[:i]+string([]byte{byte(b)})+s[i+1:])
-				}
-			}
-			if i < len(s) {
-				checkParse(t, s[:i]+s[i+1:])
-			}
-			checkParse(t, s[:i])
-		}
+		eachChange(s, func(changed string) { checkParse(t, changed) })
 	}
 }
 
