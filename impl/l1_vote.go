@@ -173,19 +173,40 @@ func listsOf(sets []memberSet) [][]int {
 	return lists
 }
 
-func (c Committee) members() int { return len(c.Weights) }
+// A rule tells which sets of members win: committees do by their weights, games by their least winning sets.
+type rule interface {
+	everybody() memberSet
+	wins(s memberSet) bool
+}
 
-func (c Committee) everybody() memberSet { return allMembers(c.members()) }
+// areSameRules reports whether both are for as many members, and the same sets win.
+func areSameRules(a rule, b rule) bool {
+	if a.everybody() != b.everybody() {
+		return false
+	}
+	return areAllSets(a.everybody().size(), func(s memberSet) bool { return a.wins(s) == b.wins(s) })
+}
 
-func (c Committee) weightOf(s memberSet) int {
-	sum := 0
-	for k, weight := range c.Weights {
+// A weightList has a weight for each member: a committee's are of type int, small ones of which many lists are looked through of type uint8.
+type weightList[N int | uint8] []N
+
+func (w weightList[N]) of(s memberSet) N {
+	var sum N
+	for k, weight := range w {
 		if s.has(k) {
 			sum += weight
 		}
 	}
 	return sum
 }
+
+func (c Committee) members() int { return len(c.Weights) }
+
+func (c Committee) everybody() memberSet { return allMembers(c.members()) }
+
+func (c Committee) weights() weightList[int] { return c.Weights }
+
+func (c Committee) weightOf(s memberSet) int { return c.weights().of(s) }
 
 func (c Committee) total() int { return c.weightOf(c.everybody()) }
 
@@ -235,6 +256,14 @@ func IsCommittee(c Committee) bool {
 	}
 	// A Quota of at least 1 that all weights reach leaves no room for weights that are all 0.
 	return c.Quota >= 1 && c.wins(c.everybody())
+}
+
+// checked returns c, and fails if that is no committee.
+func (c Committee) checked() (Committee, bool) {
+	if !IsCommittee(c) {
+		return Committee{}, false
+	}
+	return c, true
 }
 
 // TotalWeight returns all weights together.
@@ -397,10 +426,7 @@ func DropMember(c Committee, k int) (Committee, bool) {
 			left.Weights = append(left.Weights, weight)
 		}
 	}
-	if !IsCommittee(left) {
-		return Committee{}, false
-	}
-	return left, true
+	return left.checked()
 }
 
 // AreSameVotes reports whether two committees have as many members, and the same sets win.
@@ -408,11 +434,7 @@ func AreSameVotes(a Committee, b Committee) (bool, bool) {
 	if !IsCommittee(a) || !IsCommittee(b) {
 		return false, false
 	}
-	if a.members() != b.members() {
-		return false, true
-	}
-	isSameVote := func(s memberSet) bool { return a.wins(s) == b.wins(s) }
-	return areAllSets(a.members(), isSameVote), true
+	return areSameRules(a, b), true
 }
 
 // CommitteeText returns Quota, :, and the weights with , between them.
@@ -474,9 +496,5 @@ func ParseCommittee(s string) (Committee, bool) {
 	if !ok {
 		return Committee{}, false
 	}
-	c := Committee{Quota: numbers[0], Weights: numbers[1:]}
-	if !IsCommittee(c) {
-		return Committee{}, false
-	}
-	return c, true
+	return Committee{Quota: numbers[0], Weights: numbers[1:]}.checked()
 }
