@@ -24,13 +24,13 @@ func inParts(t *testing.T, list []ballot, see func(t *testing.T, i int, b ballot
 
 // TestAllLeastWeights looks for weights of all games of at most MaxFound members. Those for which the document's words give none have a trade: not even greater weights make them.
 func TestAllLeastWeights(t *testing.T) {
-	for i, want := range []int{1, 4, 18, 148, 3285} {
+	for i, want := range [][2]int{{1, 1}, {4, 4}, {18, 18}, {166, 148}, {7579, 3285}} {
 		members := i + 1
-		least := leastByWords(members)
-		if len(least) != want {
-			t.Fatalf("the test finds %d games of %d members that have weights", len(least), members)
+		all, least := ballotsOf(members), leastByWords(members)
+		if len(all) != want[0] || len(least) != want[1] {
+			t.Fatalf("the test finds %d games of %d members, %d of which have weights", len(all), members, len(least))
 		}
-		inParts(t, ballotsOf(members), func(t *testing.T, i int, b ballot) {
+		inParts(t, all, func(t *testing.T, i int, b ballot) {
 			c, ok := least[b]
 			if b.hasTrade(members) == ok {
 				t.Fatalf("the test finds a trade and weights, or none of both, of %v", b.votes(members).told())
