@@ -266,6 +266,9 @@ func (c Committee) checked() (Committee, bool) {
 	return c, true
 }
 
+// hasMember reports whether c is a committee, and k a member of it.
+func (c Committee) hasMember(k int) bool { return IsCommittee(c) && isMember(c.members(), k) }
+
 // TotalWeight returns all weights together.
 func TotalWeight(c Committee) (int, bool) {
 	if !IsCommittee(c) {
@@ -417,7 +420,7 @@ func RenameCommittee(c Committee, order []int) (Committee, bool) {
 
 // DropMember returns the committee without a member, with the same Quota. It fails if that is none.
 func DropMember(c Committee, k int) (Committee, bool) {
-	if !IsCommittee(c) || !isMember(c.members(), k) {
+	if !c.hasMember(k) {
 		return Committee{}, false
 	}
 	left := Committee{Quota: c.Quota}

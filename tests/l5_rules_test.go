@@ -9,8 +9,8 @@ import (
 	"loop.example/g01275/impl"
 )
 
-// inParts runs a test of many ballots in parts beside each other.
-func inParts(t *testing.T, list []ballot, see func(t *testing.T, i int, b ballot)) {
+// inParts runs a test of many values in parts beside each other.
+func inParts[T any](t *testing.T, list []T, see func(t *testing.T, i int, value T)) {
 	const parts = 8
 	for part := range parts {
 		t.Run(strconv.Itoa(part), func(t *testing.T) {
